@@ -109,8 +109,6 @@ func isVarNumber(n int64) bool {
 	return n >= 0 && n <= api.MaxVar
 }
 
-// order holds fields against each other that a kind may not have: there they are zero in both.
-// The kinds' own numbers rise as the order of terms asks.
 func order(a, b api.Term) int {
 	if c := orderTop(a, b); c != 0 {
 		return c
@@ -123,6 +121,8 @@ func order(a, b api.Term) int {
 	return 0
 }
 
+// orderTop holds fields against each other that a kind may not have: there they are zero in both.
+// The kinds' own numbers rise as the order of terms asks.
 func orderTop(a, b api.Term) int {
 	if c := cmp.Compare(a.Kind, b.Kind); c != 0 {
 		return c
