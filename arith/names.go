@@ -12,12 +12,12 @@ const (
 	overflow   = "overflow"
 )
 
-// A deed is what a name does with two numbers, or with the first of them alone:
+// A Deed is what a name does with two numbers, or with the first of them alone:
 // it answers what comes out, or else the name of the ball.
-type deed func(a, b int64) (n int64, refusal string)
+type Deed func(a, b int64) (n int64, refusal string)
 
-// find gives what a name does with so many numbers, nil if it does nothing.
-func find(name string, args int) deed {
+// Find gives what a name does with so many numbers, nil if it does nothing.
+func Find(name string, args int) Deed {
 	switch args {
 	case 1:
 		return withOne(name)
@@ -27,7 +27,7 @@ func find(name string, args int) deed {
 	return nil
 }
 
-func withOne(name string) deed {
+func withOne(name string) Deed {
 	switch name {
 	case "-":
 		return func(a, _ int64) (int64, string) { return difference(0, a) }
@@ -43,7 +43,7 @@ func withOne(name string) deed {
 	return nil
 }
 
-func withTwo(name string) deed {
+func withTwo(name string) Deed {
 	switch name {
 	case "+":
 		return sum
@@ -100,14 +100,14 @@ func relation(name string) func(a, b int64) bool {
 	return nil
 }
 
-// always is the deed of what comes to a number whatever the numbers are.
-func always(do func(a, b int64) int64) deed {
+// always is the Deed of what comes to a number whatever the numbers are.
+func always(do func(a, b int64) int64) Deed {
 	return func(a, b int64) (int64, string) {
 		return do(a, b), ""
 	}
 }
 
-func unlessZero(do deed) deed {
+func unlessZero(do Deed) Deed {
 	return func(a, b int64) (int64, string) {
 		if b == 0 {
 			return 0, zeroDivide
@@ -116,7 +116,7 @@ func unlessZero(do deed) deed {
 	}
 }
 
-func unlessNegative(do deed) deed {
+func unlessNegative(do Deed) Deed {
 	return func(a, b int64) (int64, string) {
 		if b < 0 {
 			return 0, negative

@@ -4,16 +4,12 @@ import (
 	"math"
 
 	"hornbook/api"
+	"hornbook/cell"
 	"hornbook/term"
 )
 
 // key is what is looked at of a first Arg. The zero key is that of a variable, and of no Arg: they keep nothing out.
-type key struct {
-	kind int
-	n    int64
-	name string
-	args int
-}
+type key = cell.Shape
 
 // family: the clauses of a predicate that are there, all, and by the keys of their heads.
 type family struct {
@@ -48,11 +44,19 @@ func (b *Base) View(goal api.Term) (*View, api.Errno) {
 	if !isCallable(goal) {
 		return nil, api.ErrClause
 	}
-	v := &View{last: math.MinInt}
-	if f, known := b.families[predicateOf(goal)]; known {
-		v.trees = f.letThrough(keyOf(goal))
-	}
+	v, _ := b.Rules(goal.Name, len(goal.Args), keyOf(goal))
 	return v, api.OK
+}
+
+// Rules is a View of a goal, by its predicate and what is seen of its first Arg, and whether the predicate is known:
+// so a search needs not write a goal out to look for its clauses.
+func (b *Base) Rules(name string, n int, first cell.Shape) (v *View, known bool) {
+	v = &View{last: math.MinInt}
+	f, known := b.families[predicate{name, n}]
+	if known {
+		v.trees = f.letThrough(first)
+	}
+	return v, known
 }
 
 // Next: P15.
@@ -66,6 +70,18 @@ func (v *View) Next() (id int, c api.Clause, ok bool) {
 		return 0, api.Clause{}, false
 	}
 	return idAt(e.place), copyOfClause(e.clause), true
+}
+
+// Rule goes on as Next does, but gives the clause made ready for searching; nil behind the last one.
+func (v *View) Rule() (id int, r *cell.Rule) {
+	e := v.step()
+	if e == nil {
+		return 0, nil
+	}
+	if e.rule == nil {
+		e.rule = cell.NewRule(e.clause)
+	}
+	return idAt(e.place), e.rule
 }
 
 // step gives nil behind the last one, and lets go of what was gone through.
@@ -107,7 +123,7 @@ func keyOf(t api.Term) key {
 		return key{}
 	}
 	x := t.Args[0]
-	return key{x.Kind, x.N, x.Name, len(x.Args)}
+	return key{Kind: x.Kind, N: x.N, Name: x.Name, Args: len(x.Args)}
 }
 
 func earlier(x, y *entry) *entry {

@@ -1,0 +1,275 @@
+package cell
+
+import (
+	"testing"
+
+	"hornbook/api"
+	"hornbook/term"
+	"hornbook/unify"
+)
+
+// TestStore holds what is bound, undone and kept against a store of pairs (doc/02-unify.md), which is told by other means.
+func TestStore(t *testing.T) {
+	x := chance(1)
+	for round := range 1500 {
+		vars := 4 + x.below(30)
+		wide := round%3 == 0
+		make := func() api.Term {
+			if wide {
+				return x.wide(vars)
+			}
+			return x.term(vars, 3)
+		}
+		w, theirs := newValues(vars), unify.New()
+		query := c("q", make(), make(), make())
+		own := w.of(query)
+		var marks []int
+		for range 40 {
+			switch x.below(8) {
+			case 0, 1, 2, 3:
+				// What can't be unified is undone by the store of pairs itself.
+				one, other := make(), make()
+				if x.below(2) == 0 {
+					one = v(int64(x.below(vars)))
+				}
+				w.store.Mark()
+				got := w.store.Unify(w.of(one), w.of(other))
+				if !got {
+					w.store.Back()
+				}
+				w.store.Keep(w.store.Marks() - 1)
+				if want, _ := theirs.Unify(one, other); got != want {
+					t.Fatalf("round %d: %s and %s: %v", round, show(one), show(other), got)
+				}
+			case 4:
+				one, other := make(), make()
+				if got, _ := theirs.Unify(one, other); got != w.store.Try(w.of(one), w.of(other)) {
+					t.Fatalf("round %d: %s and %s: %v", round, show(one), show(other), !got)
+				}
+			case 5:
+				w.store.Mark()
+				marks = append(marks, theirs.Mark())
+			case 6:
+				if len(marks) > 0 {
+					w.store.Back()
+					theirs.Undo(marks[len(marks)-1])
+				}
+			case 7:
+				keep := x.below(len(marks) + 1)
+				w.store.Keep(keep)
+				marks = marks[:keep]
+			}
+			want, _ := theirs.Resolve(query)
+			want, _, _ = term.Rename(want, 0)
+			if got := Written(own); show(got) != show(want) {
+				t.Fatalf("round %d: %s, not %s", round, show(got), show(want))
+			}
+			if w.store.Marks() != len(marks) {
+				t.Fatal(round, w.store.Marks(), len(marks))
+			}
+		}
+	}
+}
+
+// TestWalks holds what is told of terms, with variables that are bound in them, against what package term says of them written out.
+func TestWalks(t *testing.T) {
+	x := chance(2)
+	for round := range 3000 {
+		vars := 2 + x.below(12)
+		w := newValues(vars)
+		var l []Value
+		for range 4 {
+			made := x.term(vars, 4)
+			if round%4 == 0 {
+				made = x.wide(vars)
+			}
+			l = append(l, w.of(made))
+			if x.below(3) == 0 {
+				l[len(l)-1] = Made("h", l[x.below(len(l))], l[len(l)-1])
+			}
+		}
+		for range 3 {
+			w.store.Try(w.of(x.term(vars, 1)), w.of(x.term(vars, 3)))
+		}
+		for k, one := range l {
+			written := Written(one)
+			names, _ := term.Vars(written)
+			if IsGround(one) != (len(names) == 0) {
+				t.Fatalf("round %d: %s is ground: %v", round, show(written), IsGround(one))
+			}
+			twin := w.store.Copy(one)
+			if is, _ := term.Variant(Written(twin), written); !is {
+				t.Fatalf("round %d: the copy of %s is %s", round, show(written), show(Written(twin)))
+			}
+			if len(names) > 0 && Same(one, twin) {
+				t.Fatalf("round %d: %s is the same as its copy", round, show(written))
+			}
+			for _, other := range append(l[k:], twin) {
+				both := Written(Made("both", one, other))
+				order, unclear := Compare(one, other)
+				wantOrder, wantUnclear := compared(both.Args[0], both.Args[1])
+				if unclear != wantUnclear || !unclear && order != wantOrder || Same(one, other) != (wantOrder == 0) {
+					t.Fatalf("round %d: %s: %d, %v", round, show(both), order, unclear)
+				}
+			}
+		}
+	}
+}
+
+// compared is the order of two terms, and whether the first place at which they differ has two variables.
+func compared(x, y api.Term) (int, bool) {
+	if x.Kind == api.Comp && y.Kind == api.Comp && x.Name == y.Name && len(x.Args) == len(y.Args) {
+		for k := range x.Args {
+			if order, unclear := compared(x.Args[k], y.Args[k]); order != 0 {
+				return order, unclear
+			}
+		}
+		return 0, false
+	}
+	order, _ := term.Compare(x, y)
+	return order, order != 0 && x.Kind == api.Var && y.Kind == api.Var
+}
+
+// TestRules holds entering a rule against unifying its head, written out, with the goal.
+func TestRules(t *testing.T) {
+	x := chance(3)
+	for round := range 6000 {
+		vars := 2 + x.below(6)
+		head, body, goal := c("p", x.term(vars, 3), x.term(vars, 2)), x.term(vars+2, 2), c("p", x.term(vars, 3), x.term(vars, 2))
+		if round%3 == 0 {
+			head, goal = c("p", x.wide(vars), x.wide(vars)), c("p", v(0), v(1))
+		}
+		both, _, _ := term.Rename(c(":-", head, body), 0)
+		rule := NewRule(api.Clause{Head: both.Args[0], Body: both.Args[1]})
+		w := newValues(vars)
+		own := w.of(goal)
+		_, args := Parts(own)
+		slots, ok := w.store.Enter(rule, args)
+		moved, _, _ := term.Rename(both, 1000)
+		s, err := unify.Solve([]api.Pair{{A: moved.Args[0], B: goal}})
+		if ok != (err == api.OK) {
+			t.Fatalf("round %d: %s and %s: %v", round, show(goal), show(both), ok)
+		}
+		if !ok {
+			continue
+		}
+		want, _ := term.Apply(c("both", goal, moved.Args[1]), s)
+		want, _, _ = term.Rename(want, 0)
+		if got := Written(Made("both", own, w.store.Build(rule.Body, slots))); show(got) != show(want) {
+			t.Fatalf("round %d: %s and %s: %s, not %s", round, show(goal), show(both), show(got), show(want))
+		}
+	}
+}
+
+// TestTrail: it has no more in it than can be undone, and a little, however much was bound.
+func TestTrail(t *testing.T) {
+	s := &Store{}
+	for range 5 {
+		s.Mark()
+	}
+	old := make([]*Variable, 100)
+	for k := range old {
+		old[k] = s.Variable()
+	}
+	s.Mark()
+	for k := range 100000 {
+		s.Mark()
+		mine := s.Variable()
+		s.Mark()
+		if k < len(old) {
+			s.Unify(old[k], Number(k))
+		}
+		s.Unify(mine, Number(k))
+		s.Keep(s.Marks() - 2)
+	}
+	if len(s.trail) > 400 {
+		t.Error(len(s.trail))
+	}
+	for k, x := range old {
+		if Deref(x) != Number(k) {
+			t.Fatal(k, Deref(x))
+		}
+	}
+	s.Back()
+	for k, x := range old {
+		if Deref(x) != x {
+			t.Fatal(k, Deref(x))
+		}
+	}
+	s.Unify(old[0], Atom("a"))
+	s.Keep(0)
+	if len(s.trail) != 0 || Deref(old[0]) != Atom("a") {
+		t.Error(len(s.trail), Deref(old[0]))
+	}
+	for _, x := range old[1:] {
+		s.Unify(x, Atom("b"))
+	}
+	if len(s.trail) != 0 {
+		t.Error(len(s.trail))
+	}
+}
+
+// TestJoints: however variables were joined, the way from one to what it stands for is short.
+func TestJoints(t *testing.T) {
+	const n = 1 << 12
+	for way, couple := range map[string]func(k int) (int, int){
+		"from the first": func(k int) (int, int) { return k, k + 1 },
+		"from the last":  func(k int) (int, int) { return n - 1 - k, n - 2 - k },
+		"to the first":   func(k int) (int, int) { return 0, k + 1 },
+		"to the last":    func(k int) (int, int) { return n - 2 - k, n - 1 },
+	} {
+		for range 2 {
+			s := &Store{}
+			l := make([]*Variable, n)
+			for k := range l {
+				l[k] = s.Variable()
+			}
+			for k := range n - 1 {
+				one, other := couple(k)
+				s.Unify(l[one], l[other])
+			}
+			for k, x := range l {
+				joints := 0
+				for x.to != nil {
+					next, is := x.to.(*Variable)
+					if !is {
+						break
+					}
+					x = next
+					joints++
+				}
+				if joints > 13 {
+					t.Fatal(way, k, joints)
+				}
+			}
+			swap := couple
+			couple = func(k int) (int, int) {
+				one, other := swap(k)
+				return other, one
+			}
+		}
+	}
+}
+
+func TestLists(t *testing.T) {
+	s := &Store{}
+	free, bound := s.Variable(), s.Variable()
+	s.Unify(bound, Atom("b"))
+	one := Made(".", Number(1), Made(".", bound, Atom("[]")))
+	for _, l := range []struct {
+		list     Value
+		entries  int
+		is, open bool
+	}{
+		{Atom("[]"), 0, true, false}, {one, 2, true, false}, {free, 0, false, true}, {Made(".", one, free), 1, false, true}, {Made(".", one, Number(1)), 1, false, false},
+		{Atom("a"), 0, false, false}, {Made(".", one, one, one), 0, false, false}, {Made("f", one, one), 0, false, false}, {Number(3), 0, false, false}, {Made(".", one, one), 3, true, false},
+	} {
+		entries, is, open := Entries(l.list)
+		if len(entries) != l.entries || is != l.is || open != l.open {
+			t.Error(show(Written(l.list)), len(entries), is, open)
+		}
+		if is && !Same(List(entries), l.list) {
+			t.Error(show(Written(l.list)), show(Written(List(entries))))
+		}
+	}
+}
