@@ -109,14 +109,19 @@ func written(c api.Clause) api.Term {
 }
 
 // makeBody turns a term into its body where it lies. Where it answers false there is none, and the term is half turned.
-func makeBody(t *api.Term) bool {
-	switch {
-	case t.Kind == api.Int:
-		return false
-	case t.Kind == api.Var:
-		*t = api.Term{Kind: api.Comp, Name: "call", Args: []api.Term{*t}}
-	case isOfTwo(*t, ",") || isOfTwo(*t, ";") || isOfTwo(*t, "->"):
-		return makeBody(&t.Args[0]) && makeBody(&t.Args[1])
+func makeBody(whole *api.Term) bool {
+	left := []*api.Term{whole}
+	for len(left) > 0 {
+		t := left[len(left)-1]
+		left = left[:len(left)-1]
+		switch {
+		case t.Kind == api.Int:
+			return false
+		case t.Kind == api.Var:
+			*t = api.Term{Kind: api.Comp, Name: "call", Args: []api.Term{*t}}
+		case isOfTwo(*t, ",") || isOfTwo(*t, ";") || isOfTwo(*t, "->"):
+			left = append(left, &t.Args[0], &t.Args[1])
+		}
 	}
 	return true
 }

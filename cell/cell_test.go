@@ -209,6 +209,47 @@ func TestTrail(t *testing.T) {
 	}
 }
 
+// TestUndoMany: however many were bound behind whichever of some marks, just those are free again.
+func TestUndoMany(t *testing.T) {
+	const n = 1000
+	for marks := 1; marks < 5; marks++ {
+		s := &Store{}
+		var old [][]*Variable
+		for k := range marks + 1 {
+			l := make([]*Variable, n)
+			for m := range l {
+				l[m] = s.Variable()
+			}
+			old = append(old, l)
+			if k == marks {
+				break
+			}
+			s.Mark()
+			// Half of those that are older than this mark are bound behind it.
+			for _, l := range old {
+				for m := k; m < n; m += 2 * marks {
+					if l[m].to == nil {
+						s.Unify(l[m], Number(k))
+					}
+				}
+			}
+		}
+		for k := marks - 1; k >= 0; k-- {
+			s.Back()
+			for age, l := range old[:k+1] {
+				for m, v := range l {
+					behind := m % (2 * marks)
+					free := behind >= k || behind < age
+					if free != (Deref(v) == v) {
+						t.Fatal(marks, k, age, m, Deref(v))
+					}
+				}
+			}
+			s.Keep(k)
+		}
+	}
+}
+
 // TestJoints: however variables were joined, the way from one to what it stands for is short.
 func TestJoints(t *testing.T) {
 	const n = 1 << 12
@@ -256,13 +297,15 @@ func TestLists(t *testing.T) {
 	free, bound := s.Variable(), s.Variable()
 	s.Unify(bound, Atom("b"))
 	one := Made(".", Number(1), Made(".", bound, Atom("[]")))
+	whole := s.Variable()
+	s.Unify(whole, one)
 	for _, l := range []struct {
 		list     Value
 		entries  int
 		is, open bool
 	}{
 		{Atom("[]"), 0, true, false}, {one, 2, true, false}, {free, 0, false, true}, {Made(".", one, free), 1, false, true}, {Made(".", one, Number(1)), 1, false, false},
-		{Atom("a"), 0, false, false}, {Made(".", one, one, one), 0, false, false}, {Made("f", one, one), 0, false, false}, {Number(3), 0, false, false}, {Made(".", one, one), 3, true, false},
+		{Atom("a"), 0, false, false}, {Made(".", one, one, one), 0, false, false}, {Made("f", one, one), 0, false, false}, {Number(3), 0, false, false}, {Made(".", one, one), 3, true, false}, {whole, 2, true, false}, {Made(".", whole, whole), 3, true, false},
 	} {
 		entries, is, open := Entries(l.list)
 		if len(entries) != l.entries || is != l.is || open != l.open {
@@ -270,6 +313,93 @@ func TestLists(t *testing.T) {
 		}
 		if is && !Same(List(entries), l.list) {
 			t.Error(show(Written(l.list)), show(Written(List(entries))))
+		}
+	}
+}
+
+// TestFixed: what has no variable in it is not gone through again, and is not copied.
+func TestFixed(t *testing.T) {
+	s := &Store{}
+	free, bound := s.Variable(), s.Variable()
+	s.Unify(bound, Made("f", Number(1)))
+	for _, l := range []struct {
+		of   Value
+		want bool
+	}{
+		{Made("f", Number(1), Atom("a")), true}, {Made("f", Made("g", Atom("a"))), true}, {Made("f", bound), true}, {Made("f", Made("g", bound), Number(1)), true},
+		{Made("f", Atom("a"), free), false}, {Made("f", free, Atom("a")), false}, {Made("f", Made("g", free), Made("g", Number(1))), false}, {Made("f", Slot(1)), false},
+	} {
+		c, is := l.of.(*Compound)
+		if !is || c.fixed != l.want {
+			t.Error(l.of, l.want)
+		}
+		if is && c.fixed && s.Copy(c) != l.of {
+			t.Error(l.of, "is copied")
+		}
+	}
+	// A variable that stands in a compound later is not in it for good.
+	open := Made("f", free)
+	s.Mark()
+	s.Unify(free, Atom("a"))
+	twin := s.Copy(open)
+	s.Back()
+	if !Same(twin, Made("f", Atom("a"))) || IsGround(open) {
+		t.Error(show(Written(twin)), show(Written(open)))
+	}
+}
+
+// TestInside: where a variable stands in no compound, it is not looked for; where it may, it is.
+func TestInside(t *testing.T) {
+	s := &Store{}
+	x, y, z := s.Variable(), s.Variable(), s.Variable()
+	for _, v := range []*Variable{x, y, z} {
+		if v.inside {
+			t.Error("a new variable stands in a compound")
+		}
+	}
+	one := Made("f", x)
+	s.Unify(y, z)
+	s.Unify(x, y)
+	for _, v := range []*Variable{x, y, z} {
+		if Deref(v) == v && !v.inside {
+			t.Error("what a variable of a compound is bound to does not stand in it")
+		}
+	}
+	if s.Try(z, one) || s.Try(one, y) || s.Try(Made("g", one), Made("g", x)) {
+		t.Error("a term is in itself")
+	}
+}
+
+// TestLoopsOfMany: loops that are too long to be found at once, also such as the first of some variables does but lead into.
+func TestLoopsOfMany(t *testing.T) {
+	for links, want := range map[string]bool{
+		"1 2 3 4 5": true, "5 4 3 2 1": false, "1": true, "0": false, "1 2 0": false, "1 2 1": false, "1 2 3 1": false, "1 2 3 2": false, "3 1 2 1": false, "2 0": true, "2 3 4 5 4": false, "2 4 1 5 3": true, "2 4 1 0 3": false, "1 1": false,
+	} {
+		s := &Store{}
+		l := make([]Value, 6)
+		for k := range l {
+			l[k] = s.Variable()
+		}
+		wide := func(last Value) Value {
+			args := make([]Value, api.MaxArity)
+			for k := range args {
+				args[k] = Made("g", Made("g", s.Variable()))
+			}
+			args[len(args)-1] = last
+			return Made("w", args...)
+		}
+		// Each variable stands in some compound, and is bound to one in which that stands to which it is linked.
+		var from, to []Value
+		for k := range len(links)/2 + 1 {
+			from, to = append(from, l[k]), append(to, wide(Made("h", l[links[2*k]-'0'])))
+		}
+		if got := s.Try(Made("f", from...), Made("f", to...)); got != want {
+			t.Error(links, got)
+		}
+		for k, v := range l {
+			if bound := Deref(v) != v; bound != (want && k < len(from)) {
+				t.Error(links, k, bound)
+			}
 		}
 	}
 }

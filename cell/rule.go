@@ -28,7 +28,7 @@ func NewRule(c api.Clause) *Rule {
 func (s *Store) Enter(r *Rule, args []Value) (slots []Value, ok bool) {
 	slots = make([]Value, r.slots)
 	for k, arg := range args {
-		if !s.match(r.head[k], arg, slots) {
+		if !s.match(r.head[k], arg, slots, deepest) {
 			return nil, false
 		}
 	}
@@ -40,8 +40,11 @@ func (s *Store) Enter(r *Rule, args []Value) (slots []Value, ok bool) {
 	return slots, true
 }
 
+// deepest is how deep a part is gone into by calls in one another: what lies deeper, as in few clauses, is gone through by Fold.
+const deepest = 1000
+
 // match unifies a part of a head with a term, without making that part where it needs not be.
-func (s *Store) match(part, v Value, slots []Value) bool {
+func (s *Store) match(part, v Value, slots []Value, deeper int) bool {
 	for {
 		v = Deref(v)
 		if part == v {
@@ -53,7 +56,7 @@ func (s *Store) match(part, v Value, slots []Value) bool {
 		}
 		p, isOne := part.(*Compound)
 		c, isOther := v.(*Compound)
-		if !isOne || !isOther || p.fixed {
+		if !isOne || !isOther || p.fixed || deeper == 0 {
 			return s.Unify(s.Build(part, slots), v)
 		}
 		if p.Name != c.Name || len(p.Args) != len(c.Args) {
@@ -61,7 +64,7 @@ func (s *Store) match(part, v Value, slots []Value) bool {
 		}
 		last := len(p.Args) - 1
 		for k := range last {
-			if !s.match(p.Args[k], c.Args[k], slots) {
+			if !s.match(p.Args[k], c.Args[k], slots, deeper-1) {
 				return false
 			}
 		}
@@ -72,6 +75,13 @@ func (s *Store) match(part, v Value, slots []Value) bool {
 // Build is a part of a rule with what its slots are filled with; where one is not, with a new variable from now on.
 // Without slots it is the term as it is.
 func (s *Store) Build(part Value, slots []Value) Value {
+	if len(slots) == 0 {
+		return Deref(part)
+	}
+	return s.build(part, slots, deepest)
+}
+
+func (s *Store) build(part Value, slots []Value, deeper int) Value {
 	switch x := part.(type) {
 	case Slot:
 		if slots[x] == nil {
@@ -79,14 +89,26 @@ func (s *Store) Build(part Value, slots []Value) Value {
 		}
 		return Deref(slots[x])
 	case *Compound:
-		if len(slots) == 0 || x.fixed {
+		if x.fixed {
 			return x
+		}
+		if deeper == 0 {
+			return s.buildDeep(x, slots)
 		}
 		args := make([]Value, len(x.Args))
 		for k, arg := range x.Args {
-			args[k] = s.Build(arg, slots)
+			args[k] = s.build(arg, slots, deeper-1)
 		}
 		return Made(x.Name, args...)
 	}
-	return Deref(part)
+	return part
+}
+
+func (s *Store) buildDeep(part *Compound, slots []Value) Value {
+	return Fold(part, func(v Value) (Value, bool) {
+		if c, is := v.(*Compound); is {
+			return c, !c.fixed
+		}
+		return s.build(v, slots, 0), false
+	}, Remade)
 }

@@ -76,7 +76,8 @@ func (s *Store) bind(v *Variable, to Value) {
 }
 
 // tidyUp takes out of the trail what is younger than the mark it lies behind, as many are when marks have gone:
-// so a search that goes on and on keeps no more than it can come back to.
+// so a search that goes on and on keeps no more than it can come back to. Nothing lies ahead of the first mark,
+// and what was bound last lies behind all.
 func (s *Store) tidyUp() {
 	kept, behind := 0, 0
 	for k, v := range s.trail {
@@ -84,13 +85,10 @@ func (s *Store) tidyUp() {
 			s.marks[behind].trail = kept
 			behind++
 		}
-		if behind > 0 && v.born < s.marks[behind-1].clock {
+		if v.born < s.marks[behind-1].clock {
 			s.trail[kept] = v
 			kept++
 		}
-	}
-	for ; behind < len(s.marks); behind++ {
-		s.marks[behind].trail = kept
 	}
 	clear(s.trail[kept:])
 	s.trail = s.trail[:kept]

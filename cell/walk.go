@@ -39,22 +39,17 @@ func Same(x, y Value) bool {
 
 // IsGround: is there no free variable in a term?
 func IsGround(v Value) bool {
-	return Fold(v, func(v Value) (bool, bool) {
-		switch x := v.(type) {
-		case *Variable:
-			return false, false
-		case *Compound:
-			return true, !x.fixed
+	free := 0
+	Fold(v, func(v Value) (struct{}, bool) {
+		if _, is := v.(*Variable); is {
+			free++
 		}
-		return true, false
-	}, func(_ *Compound, of []bool) bool {
-		for _, is := range of {
-			if !is {
-				return false
-			}
-		}
-		return true
+		c, is := v.(*Compound)
+		return struct{}{}, is && !c.fixed && free == 0
+	}, func(*Compound, []struct{}) struct{} {
+		return struct{}{}
 	})
+	return free == 0
 }
 
 // folding: a compound that is gone through, and what came of its first Args.
@@ -184,16 +179,41 @@ func (s *Store) Read(t api.Term) Value {
 	})
 }
 
+// reading: a compound that is gone through, and what its first Args became.
+type reading struct {
+	at   *api.Term
+	args []Value
+}
+
 func read(t api.Term, variable func(n int64) Value) Value {
-	switch t.Kind {
-	case api.Var:
-		return variable(t.N)
-	case api.Int:
-		return Number(t.N)
+	var way []reading
+	next := &t
+	for {
+		var v Value
+		switch next.Kind {
+		case api.Var:
+			v = variable(next.N)
+		case api.Int:
+			v = Number(next.N)
+		case api.Atom:
+			v = Atom(next.Name)
+		default:
+			way = append(way, reading{next, make([]Value, 0, len(next.Args))})
+			next = &next.Args[0]
+			continue
+		}
+		for len(way) > 0 {
+			top := &way[len(way)-1]
+			top.args = append(top.args, v)
+			if len(top.args) < len(top.at.Args) {
+				next = &top.at.Args[len(top.args)]
+				break
+			}
+			v = Made(top.at.Name, top.args...)
+			way = way[:len(way)-1]
+		}
+		if len(way) == 0 {
+			return v
+		}
 	}
-	args := make([]Value, len(t.Args))
-	for k, arg := range t.Args {
-		args[k] = read(arg, variable)
-	}
-	return Made(t.Name, args...)
 }

@@ -150,37 +150,50 @@ func (x *chance) program() (one, other *base.Base) {
 	return one, other
 }
 
+const rounds = 20000
+
 // TestChance holds all that searches tell of many programs against what the document says, word by word.
 func TestChance(t *testing.T) {
 	x := chance(16)
 	kinds := map[int]int{}
-	for round := range 20000 {
-		own, theirs := x.program()
-		program := clausesOf(t, own)
-		query := x.goal(3)
-		s, err := solve.New(own, query)
-		m, wantErr := newMeaning(theirs, query)
-		if err != wantErr || (s == nil) != (err != api.OK) {
-			t.Fatalf("round %d: %s: %v, not %v", round, show(query), err, wantErr)
-		}
-		if err != api.OK {
-			continue
-		}
-		for k := range 7 {
-			steps := pick(&x, 150, 150, 150, 150, 150, 40, 12, x.below(8), -x.below(3))
-			got, want := s.Next(steps), m.next(steps)
-			if showOutcome(got) != showOutcome(want) {
-				t.Fatalf("round %d, outcome %d with %d steps: of %s\n%s\n%s\nnot\n%s", round, k, steps, program, printed(t, query), showOutcome(got), showOutcome(want))
-			}
-			kinds[got.Kind]++
-		}
-		if got, want := clausesOf(t, own), clausesOf(t, theirs); got != want {
-			t.Fatalf("round %d: of %s %s leaves %s, not %s", round, program, printed(t, query), got, want)
-		}
+	for round := range rounds {
+		held(t, &x, round, kinds)
 	}
 	for _, kind := range []int{api.Answer, api.None, api.Thrown, api.Out} {
-		if kinds[kind] < 2000 {
+		if kinds[kind] < rounds/10 {
 			t.Error("kind", strconv.Itoa(kind), "came but", kinds[kind], "times")
 		}
+	}
+}
+
+// held makes a program and a query, and holds the outcomes against each other.
+func held(t *testing.T, x *chance, round int, kinds map[int]int) {
+	own, theirs := x.program()
+	program := clausesOf(t, own)
+	query := x.goal(3)
+	s, err := solve.New(own, query)
+	m, wantErr := newMeaning(theirs, query)
+	if err != wantErr || (s == nil) != (err != api.OK) {
+		t.Fatalf("round %d: %s: %v, not %v", round, show(query), err, wantErr)
+	}
+	if err != api.OK {
+		return
+	}
+	defer func() {
+		if e := recover(); e != nil && e != any(tooGreat{}) {
+			t.Fatalf("round %d: of %s\n%s\n%v", round, program, printed(t, query), e)
+		}
+	}()
+	for k := range 7 {
+		steps := pick(x, 150, 150, 150, 150, 150, 40, 12, x.below(8), -x.below(3))
+		want := m.next(steps)
+		got := s.Next(steps)
+		if showOutcome(got) != showOutcome(want) {
+			t.Fatalf("round %d, outcome %d with %d steps: of %s\n%s\n%s\nnot\n%s", round, k, steps, program, printed(t, query), showOutcome(got), showOutcome(want))
+		}
+		kinds[got.Kind]++
+	}
+	if got, want := clausesOf(t, own), clausesOf(t, theirs); got != want {
+		t.Fatalf("round %d: of %s %s leaves %s, not %s", round, program, printed(t, query), got, want)
 	}
 }

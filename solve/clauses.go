@@ -53,24 +53,17 @@ func (s *Search) view(name string, args []cell.Value) (view *base.View, known bo
 // deed is what a goal does with its Args.
 type deed func(s *Search, args []cell.Value) (holds bool, ball cell.Value)
 
-// find gives what a goal of a reserved predicate does, nil if it is of none.
-func find(name string, args int) deed {
-	if do := inbuilt.Find(name, args); do != nil {
-		return func(s *Search, args []cell.Value) (bool, cell.Value) { return do(&s.desk, args) }
-	}
+// beyondDesk gives what a goal does that needs more than a desk, a choice or the base; nil if it is no such goal.
+func beyondDesk(name string, args int) deed {
 	switch {
 	case name == "between" && args == 3:
 		return (*Search).between
 	case name == "assertz" && args == 1:
-		return func(s *Search, args []cell.Value) (bool, cell.Value) { return s.lay(args[0], false) }
+		return (*Search).assertLast
 	case name == "asserta" && args == 1:
-		return func(s *Search, args []cell.Value) (bool, cell.Value) { return s.lay(args[0], true) }
+		return (*Search).assertFirst
 	case name == "retract" && args == 1:
 		return (*Search).retract
-	case base.Reserved(name, args):
-		return func(s *Search, args []cell.Value) (bool, cell.Value) {
-			return false, inbuilt.Protected(name, len(args))
-		}
 	}
 	return nil
 }
@@ -119,7 +112,14 @@ func headOf(v cell.Value) (head, body, ball cell.Value) {
 	return head, body, nil
 }
 
-// lay is assertz, and asserta.
+func (s *Search) assertLast(args []cell.Value) (bool, cell.Value) {
+	return s.lay(args[0], false)
+}
+
+func (s *Search) assertFirst(args []cell.Value) (bool, cell.Value) {
+	return s.lay(args[0], true)
+}
+
 func (s *Search) lay(v cell.Value, first bool) (bool, cell.Value) {
 	if _, _, ball := headOf(v); ball != nil {
 		return false, ball

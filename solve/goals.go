@@ -1,7 +1,9 @@
 package solve
 
 import (
+	"hornbook/base"
 	"hornbook/cell"
+	"hornbook/inbuilt"
 )
 
 // goals is a list: the first goal, and those behind it. It is never changed, so that choices may share it.
@@ -86,8 +88,14 @@ func (s *Search) step() (holds bool, ball cell.Value) {
 		return do(s, g, parts)
 	}
 	args := s.builtAll(parts, g.slots)
-	if do := find(name, len(args)); do != nil {
+	if do := inbuilt.Find(name, len(args)); do != nil {
+		return do(&s.desk, args)
+	}
+	if do := beyondDesk(name, len(args)); do != nil {
 		return do(s, args)
+	}
+	if base.Reserved(name, len(args)) {
+		return false, inbuilt.Protected(name, len(args))
 	}
 	return s.call(name, args)
 }

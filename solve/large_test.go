@@ -3,6 +3,7 @@ package solve_test
 import (
 	"runtime"
 	"strconv"
+	"strings"
 	"testing"
 
 	"hornbook/api"
@@ -22,6 +23,11 @@ len([],0). len([_|T],N) :- len(T,M), N is M + 1.
 upto(0,[]) :- !. upto(N,[N|T]) :- M is N - 1, upto(M,T).
 holes(0,[]) :- !. holes(N,[X|T]) :- M is N - 1, holes(M,T).
 nested(0,T,T). nested(N,T,R) :- N > 0, M is N - 1, nested(M,f(T),R).
+fifty(0,T,T). fifty(N,T,R) :- N > 0, M is N - 1, fifty(M,FIFTY,R).
+bothfifty(0,T,T). bothfifty(N,T,R) :- N > 0, M is N - 1, bothfifty(M,BOTH,R).
+leftfifty(0,T,T). leftfifty(N,T,R) :- N > 0, M is N - 1, leftfifty(M,LEFT,R).
+downlast(N) :- N > 0, M is N - 1, downlast(M). downlast(0).
+downcatch(0). downcatch(N) :- N > 0, catch(true,_,true), M is N - 1, downcatch(M).
 left(0,T,T). left(N,T,R) :- N > 0, M is N - 1, left(M,f(T,X),R).
 twice(0,T,T). twice(N,T,R) :- N > 0, M is N - 1, twice(M,f(T,T),R).
 sum(0,T,T). sum(N,T,R) :- N > 0, M is N - 1, sum(M,T + T,R).
@@ -38,13 +44,20 @@ pairs([_]) :- !. pairs([X,Y|Z]) :- pairs([Y|Z]), X = Y.
 grow(0,_). grow(N,T) :- N > 0, T = [N|U], M is N - 1, grow(M,U).
 `
 
+// working is these, with terms written out that are nested fifty times.
+func working() string {
+	fifty := strings.ReplaceAll(works, "FIFTY", strings.Repeat("f(", 50)+"T"+strings.Repeat(")", 50))
+	fifty = strings.ReplaceAll(fifty, "BOTH", strings.Repeat("(", 50)+"T"+strings.Repeat(",true)", 50))
+	return strings.ReplaceAll(fifty, "LEFT", strings.Repeat("g(", 50)+"T"+strings.Repeat(",X)", 50))
+}
+
 // enough steps for all that comes to an end here.
 const enough = 1 << 24
 
 // once gives the first outcome of a query.
 func once(t *testing.T, query string) api.Outcome {
 	t.Helper()
-	return search(t, filled(t, works), query).Next(enough)
+	return search(t, filled(t, working()), query).Next(enough)
 }
 
 // TestLong: much is done in time that does not grow faster than it.
@@ -62,37 +75,66 @@ func TestLong(t *testing.T) {
 	}
 }
 
+// TestMuchIsUndone: what was bound behind a choice is free again, however much it was, whatever choices there were between.
+func TestMuchIsUndone(t *testing.T) {
+	free, bound := "", ""
+	for k := range 300 {
+		free += ",_" + strconv.Itoa(k)
+		bound += "," + strconv.Itoa(300-k)
+	}
+	free, bound = "["+free[1:]+"]", "["+bound[1:]+"]"
+	for _, way := range []string{
+		"_ = x ; true", "upto(300,L), fail ; true", "(upto(300,L) -> fail ; true) ; true", "\\+ upto(300,L) ; true", "\\+ \\+ upto(300,L)", "findall(L,upto(300,L),[M]), M == " + bound,
+		"catch((upto(300,L), throw(a)),a,true)", "(true ; true), (upto(300,L), (true ; true), fail ; true)", "catch((upto(300,L) -> throw(a) ; true),a,true)", "catch((true ; true),_,true), \\+ L \\= " + bound, "(upto(300,L) ; true), \\+ L == " + bound,
+	} {
+		o := once(t, "holes(300,L), ("+way+"), print(L), fail ; true")
+		if o.Kind != api.Answer || !strings.HasPrefix(o.Text, free) || o.Text != strings.Repeat(free, len(o.Text)/len(free)) {
+			t.Errorf("%s: %s %s", way, showOutcome(o)[:6], o.Text)
+		}
+	}
+}
+
 // TestDeep: what is nested in what, goals and searches in one another and parts in terms, far more than is handed in.
 func TestDeep(t *testing.T) {
 	for _, query := range []string{
-		"within(100000)", "without(100000)", "finding(100000)", "catching(100000)", "catch(throwing(100000),ball,true)",
-		"nested(200000,a,X), copy_term(X,Y), X == Y, X = Y, ground(X), compare(=,X,Y), assertz(k(X)), k(Z), Z = X, retract(k(Y))",
-		"left(200000,a,X), copy_term(X,Y), X = Y, \\+ ground(X), X = f(Z,_), \\+ Z = X, assertz(k(X)), k(W), findall(W,W = X,[V])",
-		"nested(100000,1,X), catch(Y is X,not_evaluable(f / 1),true)",
-		"nested(200000,a,X), nested(199999,b,Y), \\+ X = Y, X \\== Y, Y @< X",
-		"nested(100000,a,X), catch(throw(X),Y,true), X == Y",
+		"within(70000)", "without(70000)", "finding(70000)", "catching(70000)", "catch(throwing(70000),ball,true)",
+		"nested(70000,a,X), copy_term(X,Y), X == Y, X = Y, ground(X), compare(=,X,Y), assertz(k(X)), k(Z), Z = X, retract(k(Y))",
+		"left(70000,a,X), copy_term(X,Y), X = Y, \\+ ground(X), X = f(Z,_), \\+ Z = X, assertz(k(X)), k(W), findall(W,W = X,[V])",
+		"nested(70000,1,X), catch(Y is X,not_evaluable(f / 1),true)",
+		"nested(70000,a,X), nested(69999,b,Y), \\+ X = Y, X \\== Y, Y @< X",
+		"nested(70000,a,X), catch(throw(X),Y,true), X == Y",
 	} {
 		if o := once(t, query); o.Kind != api.Answer {
 			t.Error(query, o.Kind, o.Steps, show(o.Ball))
 		}
 	}
-	o := once(t, "nested(200000,a,X), print(X), throw(X)")
-	if len(o.Text) != 3*200000+1 {
+	// No call may lie in another for each part that lies in another.
+	for _, query := range []string{
+		"fifty(32000,a,X), print(X), assertz(k(X)), k(Y), Y == X, retract(k(Z))",
+		"leftfifty(28000,a,X), print(X), assertz(k(X)), k(Y), Y = X",
+		"bothfifty(16000,true,X), assertz((l :- X)), l",
+	} {
+		if o := once(t, "\\+ \\+ ("+query+")"); o.Kind != api.Answer {
+			t.Error(query, o.Kind, o.Steps, show(o.Ball))
+		}
+	}
+	o := once(t, "nested(70000,a,X), print(X), throw(X)")
+	if len(o.Text) != 3*70000+1 {
 		t.Error(len(o.Text))
 	}
 	depth := 0
 	for x := o.Ball; isOf(x, "f", 1); x = x.Args[0] {
 		depth++
 	}
-	if depth != 200000 {
+	if depth != 70000 {
 		t.Error(depth)
 	}
-	o = once(t, "upto(200000,L)")
+	o = once(t, "upto(70000,L)")
 	count := 0
-	for x := o.Term.Args[1]; isOf(x, ".", 2) && x.Args[0].N == int64(200000-count); x = x.Args[1] {
+	for x := o.Term.Args[1]; isOf(x, ".", 2) && x.Args[0].N == int64(70000-count); x = x.Args[1] {
 		count++
 	}
-	if count != 200000 {
+	if count != 70000 {
 		t.Error(count)
 	}
 }
@@ -114,7 +156,7 @@ func TestWhatCannotBeWrittenOut(t *testing.T) {
 		"twin(60,G,H), catch(G,unbound,fail)":                                                                                         api.None,
 		"twice(100,A,X), X = f(Y,Z), functor(X,f,2), arg(1,X,Y), X =.. [_,Y,Z], length([X,Y],N), (X = X -> true ; true), fail ; true": api.Answer,
 	} {
-		s := search(t, filled(t, works), query)
+		s := search(t, filled(t, working()), query)
 		if o := s.Next(enough); o.Kind != want {
 			t.Error(query, o.Kind, o.Steps, show(o.Ball))
 		}
@@ -162,7 +204,7 @@ func TestDeepQueries(t *testing.T) {
 
 // TestManyClauses: of a predicate with very many, those that the first Arg lets through are found at once.
 func TestManyClauses(t *testing.T) {
-	b := filled(t, works+"each(0). each(N) :- N > 0, much(N,X), M is N - 1, each(M). all(N) :- much(_,N), fail. all(_).")
+	b := filled(t, working()+"each(0). each(N) :- N > 0, much(N,X), M is N - 1, each(M). all(N) :- much(_,N), fail. all(_).")
 	for k := range 50000 {
 		b.Add(api.Clause{Head: c("much", i(int64(k+1)), a("x"+strconv.Itoa(k))), Body: a("true")}, false)
 	}
@@ -187,7 +229,7 @@ func TestWhatIsDoneIsLetGo(t *testing.T) {
 	for query, want := range map[string]int{
 		"upto(100000,L), fail": api.None, "upto(100000,L), throw(a)": api.Thrown, "upto(100000,L), p(X), down(1000000)": api.Out, "\\+ \\+ (upto(100000,L), p(X))": api.Answer, "upto(100000,L)": api.Answer,
 	} {
-		b := filled(t, works+"p(f(_,_)). p(g).")
+		b := filled(t, working()+"p(f(_,_)). p(g).")
 		before := inUse()
 		s := search(t, b, query)
 		if kind := s.Next(1000000).Kind; kind != want {
@@ -203,12 +245,12 @@ func TestWhatIsDoneIsLetGo(t *testing.T) {
 // TestAnswersKeepLittle: what is in use at an answer, with choices left, is what the search can come back to.
 func TestAnswersKeepLittle(t *testing.T) {
 	for _, query := range []string{
-		"(true ; true), down(300000)", "(true ; true), downif(300000)", "(true ; true), downall(60000)", "(true ; true), downbad(60000)",
+		"(true ; true), down(300000)", "(true ; true), downif(300000)", "(true ; true), downcatch(100000)", "(true ; true), downlast(100000)", "(true ; true), downall(60000)", "(true ; true), downbad(60000)",
 		"(true ; true), between(1,300000,X), X >= 299999", "(true ; true), catch(down(300000),_,true)", "(true ; true), \\+ \\+ upto(100000,L)",
 		"(true ; true), \\+ \\+ findall(L,upto(100000,L),[_]), !, (true ; true)", "(true ; true), (upto(100000,L) -> true ; true), L = [_|_], fail ; true ; true",
 		"(true ; true), \\+ \\+ downopen(300000,f(_,_))", "p(T), downopen(300000,T), fail ; true ; true",
 	} {
-		b := filled(t, works+"p(f(_,_)). p(g).")
+		b := filled(t, working()+"p(f(_,_)). p(g).")
 		before := inUse()
 		s := search(t, b, query)
 		if o := s.Next(enough); o.Kind != api.Answer {

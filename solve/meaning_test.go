@@ -148,7 +148,18 @@ func (r *run) apply(t api.Term) api.Term {
 	return t
 }
 
+// tooGreat is given up with where a term is too great to be written out again and again.
+type tooGreat struct{}
+
 func (r *run) unify(x, y api.Term) int {
+	size := 0
+	for _, b := range r.binds {
+		n, _, _ := term.Measure(b.To)
+		size += n
+	}
+	if size > 100000 {
+		panic(tooGreat{})
+	}
 	l := []api.Pair{{A: x, B: y}}
 	for _, b := range r.binds {
 		l = append(l, api.Pair{A: v(b.Var), B: b.To})

@@ -30,7 +30,7 @@ func Compose(s, u []api.Bind) ([]api.Bind, api.Errno) {
 	}
 	for _, b := range u {
 		if _, bound := find(s, b.Var); !bound {
-			list = appendBind(list, b.Var, copyOf(b.To))
+			list = appendBind(list, b.Var, Copy(b.To))
 		}
 	}
 	sortBinds(list)
@@ -48,7 +48,7 @@ func Match(p, t api.Term) ([]api.Bind, bool, api.Errno) {
 	}
 	var list []api.Bind
 	for n, to := range met {
-		list = append(list, api.Bind{Var: n, To: copyOf(to)})
+		list = append(list, api.Bind{Var: n, To: Copy(to)})
 	}
 	sortBinds(list)
 	return list, true, api.OK
@@ -87,7 +87,7 @@ func isRising(s []api.Bind) bool {
 func becoming(s []api.Bind) func(n int64) api.Term {
 	return func(n int64) api.Term {
 		if k, bound := find(s, n); bound {
-			return copyOf(s[k].To)
+			return Copy(s[k].To)
 		}
 		return variable(n)
 	}

@@ -29,7 +29,7 @@ func generalize(a, b api.Term, stand func(a, b api.Term) api.Term) api.Term {
 		return stand(a, b)
 	}
 	if a.Kind != api.Comp {
-		return copyOf(a)
+		return Copy(a)
 	}
 	args := make([]api.Term, len(a.Args))
 	for k := range args {

@@ -13,7 +13,7 @@ func At(t api.Term, path []int) (api.Term, api.Errno) {
 	if place == nil {
 		return api.Term{}, api.ErrAbsent
 	}
-	return copyOf(*place), api.OK
+	return Copy(*place), api.OK
 }
 
 // Put: P6.
@@ -21,12 +21,12 @@ func Put(t api.Term, path []int, u api.Term) (api.Term, api.Errno) {
 	if err := checkAll(t, u); err != api.OK {
 		return api.Term{}, err
 	}
-	whole := copyOf(t)
+	whole := Copy(t)
 	place := placeOf(&whole, path)
 	if place == nil {
 		return api.Term{}, api.ErrAbsent
 	}
-	*place = copyOf(u)
+	*place = Copy(u)
 	return whole, api.OK
 }
 

@@ -109,13 +109,27 @@ func isVarNumber(n int64) bool {
 	return n >= 0 && n <= api.MaxVar
 }
 
+// order is no recursion, for walk's reason.
 func order(a, b api.Term) int {
 	if c := orderTop(a, b); c != 0 {
 		return c
 	}
-	for k := range a.Args {
-		if c := order(a.Args[k], b.Args[k]); c != 0 {
+	left := append(make([][2][]api.Term, 0, shallow), [2][]api.Term{a.Args, b.Args})
+	for len(left) > 0 {
+		top := &left[len(left)-1]
+		if len(top[0]) == 0 {
+			left = left[:len(left)-1]
+			continue
+		}
+		x, y := &top[0][0], &top[1][0]
+		if c := orderTop(*x, *y); c != 0 {
 			return c
+		}
+		top[0], top[1] = top[0][1:], top[1][1:]
+		if len(top[0]) == 0 {
+			*top = [2][]api.Term{x.Args, y.Args}
+		} else if len(x.Args) > 0 {
+			left = append(left, [2][]api.Term{x.Args, y.Args})
 		}
 	}
 	return 0

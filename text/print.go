@@ -7,10 +7,57 @@ import (
 	"hornbook/api"
 )
 
-// printer writes a term that is known to be one.
+// printer writes a term that is known to be one. What is to be written behind what is written now stands in a list, the next
+// on top: a search may print terms that are nested deeper than calls may be.
 type printer struct {
 	operators
-	out []byte
+	out  []byte
+	todo []job
+}
+
+// job: something to be written.
+type job struct {
+	do   func(p *printer, j job)
+	term *api.Term
+	most int
+	text string
+}
+
+// later has these done one behind the other, ahead of all that is to be done already.
+func (p *printer) later(list ...job) {
+	for k := len(list) - 1; k >= 0; k-- {
+		p.todo = append(p.todo, list[k])
+	}
+}
+
+// all writes a whole term.
+func (p *printer) all(t api.Term) {
+	p.later(termJob(&t, topPrio))
+	for len(p.todo) > 0 {
+		next := p.todo[len(p.todo)-1]
+		p.todo = p.todo[:len(p.todo)-1]
+		next.do(p, next)
+	}
+}
+
+func termJob(t *api.Term, most int) job {
+	return job{do: func(p *printer, j job) { p.term(*j.term, j.most) }, term: t, most: most}
+}
+
+func operandJob(t *api.Term, most int) job {
+	return job{do: func(p *printer, j job) { p.operand(*j.term, j.most) }, term: t, most: most}
+}
+
+func restJob(t *api.Term) job {
+	return job{do: func(p *printer, j job) { p.rest(j.term) }, term: t}
+}
+
+func textJob(s string) job {
+	return job{do: func(p *printer, j job) { p.write(j.text) }, text: s}
+}
+
+func infixJob(name string) job {
+	return job{do: func(p *printer, j job) { p.infixName(j.text) }, text: name}
 }
 
 func (p *printer) write(s string) {
@@ -44,8 +91,7 @@ func (p *printer) compound(t api.Term, most int) {
 	case 1:
 		if t.Name == "{}" {
 			p.write("{")
-			p.term(t.Args[0], topPrio)
-			p.write("}")
+			p.later(termJob(&t.Args[0], topPrio), textJob("}"))
 			return
 		}
 		if op, ok := p.prefix[t.Name]; ok {
@@ -77,29 +123,30 @@ func (p *printer) between(t api.Term) (priorities, bool) {
 func (p *printer) plain(t api.Term) {
 	p.name(t.Name)
 	p.write("(")
-	for k, arg := range t.Args {
-		if k > 0 {
-			p.write(",")
-		}
-		p.term(arg, argPrio)
+	p.later(textJob(")"))
+	for k := len(t.Args) - 1; k > 0; k-- {
+		p.later(textJob(","), termJob(&t.Args[k], argPrio))
 	}
-	p.write(")")
+	p.later(termJob(&t.Args[0], argPrio))
 }
 
 func (p *printer) list(t api.Term) {
 	p.write("[")
-	p.term(t.Args[0], argPrio)
-	rest := t.Args[1]
-	for isPair(rest) {
+	p.later(termJob(&t.Args[0], argPrio), restJob(&t.Args[1]))
+}
+
+// rest writes a list behind its first entries.
+func (p *printer) rest(t *api.Term) {
+	switch {
+	case isPair(*t):
 		p.write(",")
-		p.term(rest.Args[0], argPrio)
-		rest = rest.Args[1]
-	}
-	if rest.Kind != api.Atom || rest.Name != "[]" {
+		p.later(termJob(&t.Args[0], argPrio), restJob(&t.Args[1]))
+	case t.Kind == api.Atom && t.Name == "[]":
+		p.write("]")
+	default:
 		p.write("|")
-		p.term(rest, argPrio)
+		p.later(termJob(t, argPrio), textJob("]"))
 	}
-	p.write("]")
 }
 
 func isPair(t api.Term) bool {
@@ -107,25 +154,32 @@ func isPair(t api.Term) bool {
 }
 
 func (p *printer) prefixed(t api.Term, op priorities, most int) {
-	p.openAbove(op.own, most)
+	opening, closing := brackets(op.own, most)
+	p.write(opening)
 	p.name(t.Name)
 	p.write(" ")
-	p.operand(t.Args[0], op.right)
-	p.closeAbove(op.own, most)
+	p.later(operandJob(&t.Args[0], op.right), textJob(closing))
 }
 
 func (p *printer) infixed(t api.Term, op priorities, most int) {
-	p.openAbove(op.own, most)
-	p.operand(t.Args[0], p.leftMost(t.Args[0], op))
-	if t.Name == "," {
+	opening, closing := brackets(op.own, most)
+	p.write(opening)
+	p.later(
+		operandJob(&t.Args[0], p.leftMost(t.Args[0], op)),
+		infixJob(t.Name),
+		operandJob(&t.Args[1], op.right),
+		textJob(closing),
+	)
+}
+
+func (p *printer) infixName(name string) {
+	if name == "," {
 		p.write(",")
-	} else {
-		p.write(" ")
-		p.name(t.Name)
-		p.write(" ")
+		return
 	}
-	p.operand(t.Args[1], op.right)
-	p.closeAbove(op.own, most)
+	p.write(" ")
+	p.name(name)
+	p.write(" ")
 }
 
 // leftMost: a left operand of the operator's own priority may not reach over to what is behind the operator, as one
@@ -150,16 +204,12 @@ func (p *printer) operand(t api.Term, most int) {
 	p.term(t, most)
 }
 
-func (p *printer) openAbove(prio, most int) {
+// brackets stand about what has a priority above that up to which it is written.
+func brackets(prio, most int) (opening, closing string) {
 	if prio > most {
-		p.write("(")
+		return "(", ")"
 	}
-}
-
-func (p *printer) closeAbove(prio, most int) {
-	if prio > most {
-		p.write(")")
-	}
+	return "", ""
 }
 
 func (p *printer) name(name string) {
