@@ -78,10 +78,12 @@ func (v *View) Rule() (id int, r *cell.Rule) {
 	if e == nil {
 		return 0, nil
 	}
-	if e.rule == nil {
-		e.rule = cell.NewRule(e.clause)
+	r = e.rule.Load()
+	if r == nil {
+		r = cell.NewRule(e.clause)
+		e.rule.Store(r)
 	}
-	return idAt(e.place), e.rule
+	return idAt(e.place), r
 }
 
 // step gives nil behind the last one, and lets go of what was gone through.

@@ -11,7 +11,7 @@ import (
 // TestStore holds what is bound, undone and kept against a store of pairs (doc/02-unify.md), which is told by other means.
 func TestStore(t *testing.T) {
 	x := chance(1)
-	for round := range 1500 {
+	for round := range 600 {
 		vars := 4 + x.below(30)
 		wide := round%3 == 0
 		make := func() api.Term {

@@ -154,6 +154,7 @@ const rounds = 20000
 
 // TestChance holds all that searches tell of many programs against what the document says, word by word.
 func TestChance(t *testing.T) {
+	t.Parallel()
 	x := chance(16)
 	kinds := map[int]int{}
 	for round := range rounds {
