@@ -71,6 +71,95 @@ func TestStore(t *testing.T) {
 	}
 }
 
+// TestLater holds what comes of many unifications, if loops are looked for behind all of them, against the unifier of all pairs.
+func TestLater(t *testing.T) {
+	x := chance(4)
+	solved, clashed, looped := 0, 0, 0
+	for round := range 3000 {
+		vars := 4 + x.below(30)
+		w := newValues(vars)
+		w.store.Later()
+		var pairs []api.Pair
+		ok := true
+		for range 1 + x.below(8) {
+			one, other := x.term(vars, 3), x.term(vars, 3)
+			if round%3 == 0 {
+				one, other = x.wide(vars), v(int64(x.below(vars)))
+			}
+			pairs = append(pairs, api.Pair{A: one, B: other})
+			if ok = w.store.Unify(w.of(one), w.of(other)); !ok {
+				break
+			}
+		}
+		s, err := unify.Solve(pairs)
+		loops := ok && w.store.Loops()
+		if (ok && !loops) != (err == api.OK) {
+			t.Fatalf("round %d: %v, %v, not %v", round, ok, loops, err)
+		}
+		switch {
+		case !ok:
+			clashed++
+			continue
+		case loops:
+			looped++
+			continue
+		}
+		solved++
+		var all []api.Term
+		for n := range vars {
+			all = append(all, v(int64(n)))
+		}
+		query := c("q", all...)
+		want, _ := term.Apply(query, s)
+		want, _, _ = term.Rename(want, 0)
+		if got := Written(w.of(query)); show(got) != show(want) {
+			t.Fatalf("round %d: %s, not %s", round, show(got), show(want))
+		}
+	}
+	if solved < 400 || clashed < 400 || looped < 400 {
+		t.Error(solved, clashed, looped)
+	}
+}
+
+// TestLaterIsNotLong: great terms that are the same are gone through once, however often they are to be made so.
+func TestLaterIsNotLong(t *testing.T) {
+	const n = 20000
+	s := &Store{}
+	s.Later()
+	x, y := s.Variable(), s.Variable()
+	var one, other Value = x, y
+	for range n {
+		one, other = Made("f", one, one), Made("f", other, other)
+	}
+	for range n {
+		if !s.Unify(one, other) {
+			t.Fatal("two that are alike are not unified")
+		}
+	}
+	if s.Loops() || Deref(x) != Deref(y) {
+		t.Error(s.Loops())
+	}
+	if !s.Unify(x, Made("g", other)) || !s.Loops() {
+		t.Error("a term is in itself")
+	}
+}
+
+// TestReadAll: terms that are read together have the variables of one number in common, and no others.
+func TestReadAll(t *testing.T) {
+	s := &Store{}
+	l := s.ReadAll(c("f", v(3), v(0)), v(0), a("a"), c("g", v(3), v(4)), i(2))
+	if got, want := show(Written(Made("l", l...))), show(c("l", c("f", v(0), v(1)), v(1), a("a"), c("g", v(0), v(2)), i(2))); got != want {
+		t.Error(got, want)
+	}
+	other := s.Read(v(0))
+	if other == l[1] || other == s.Read(v(0)) {
+		t.Error("what is not read together has a variable in common")
+	}
+	if got := s.ReadAll(); len(got) != 0 {
+		t.Error(len(got))
+	}
+}
+
 // TestWalks holds what is told of terms, with variables that are bound in them, against what package term says of them written out.
 func TestWalks(t *testing.T) {
 	x := chance(2)

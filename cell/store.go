@@ -7,6 +7,7 @@ type Store struct {
 	marks []mark
 	trail []*Variable // what was bound that is older than a mark
 	tidy  int         // how long the trail was, and how many marks there were, when it was last gone through
+	later *union      // what was unified since loops are looked for later; nil, if each unification does that itself
 }
 
 // mark: how long the trail was when it was laid, and the time from then on.

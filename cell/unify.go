@@ -5,10 +5,33 @@ type couple struct {
 	x, y Value
 }
 
+// union: what was met on the way of making terms the same, and the variables by which a loop may have come to be.
+type union struct {
+	met      classes
+	suspects []*Variable
+}
+
 // Unify makes two terms the same. If they can't be, it may have bound something: that is the caller's to take back.
 func (s *Store) Unify(x, y Value) bool {
-	var met classes
-	var suspects []*Variable
+	if s.later != nil {
+		return s.unite(x, y, s.later)
+	}
+	var u union
+	return s.unite(x, y, &u) && !anyInLoop(u.suspects)
+}
+
+// Later puts off looking for loops: from now on Loops does that, once for all. It is for a store in which nothing is taken back,
+// so that what is the same stays so, and is not gone through again, however often it is to be made so.
+func (s *Store) Later() {
+	s.later = &union{}
+}
+
+// Loops: is there a term, by what was unified since Later, that would have to be nested in itself?
+func (s *Store) Loops() bool {
+	return anyInLoop(s.later.suspects)
+}
+
+func (s *Store) unite(x, y Value, u *union) bool {
 	work := []couple{{x, y}}
 	for len(work) > 0 {
 		next := work[len(work)-1]
@@ -21,12 +44,8 @@ func (s *Store) Unify(x, y Value) bool {
 			x, y = y, x
 		}
 		if v, is := x.(*Variable); is {
-			loop, unsure := s.assign(v, y)
-			if loop {
+			if !s.assign(v, y, u) {
 				return false
-			}
-			if unsure != nil {
-				suspects = append(suspects, unsure)
 			}
 			continue
 		}
@@ -35,11 +54,11 @@ func (s *Store) Unify(x, y Value) bool {
 		if !isOne || !isOther || a.Name != b.Name || len(a.Args) != len(b.Args) {
 			return false
 		}
-		if !met.same(a, b) {
+		if !u.met.same(a, b) {
 			work = appendArgs(work, a, b)
 		}
 	}
-	return len(suspects) == 0 || !anyInLoop(suspects)
+	return true
 }
 
 // appendArgs lays the first ones on top.
@@ -50,26 +69,29 @@ func appendArgs(work []couple, a, b *Compound) []couple {
 	return work
 }
 
-// assign binds a free variable to another term. It is loop if the variable is in that term;
-// where it would take long to tell, the variable is unsure.
-func (s *Store) assign(v *Variable, to Value) (loop bool, unsure *Variable) {
+// assign binds a free variable to another term; false, if the variable is seen to be in that term.
+// Where it would take long to tell, or is put off, the variable is a suspect.
+func (s *Store) assign(v *Variable, to Value, u *union) bool {
 	switch x := to.(type) {
 	case *Variable:
 		s.join(v, x)
-		return false, nil
+		return true
 	case *Compound:
 		if v.inside && !x.fixed {
-			found, ended := isWithin(v, x)
+			found, ended := false, false
+			if s.later == nil {
+				found, ended = isWithin(v, x)
+			}
 			if found {
-				return true, nil
+				return false
 			}
 			if !ended {
-				unsure = v
+				u.suspects = append(u.suspects, v)
 			}
 		}
 	}
 	s.bind(v, to)
-	return false, unsure
+	return true
 }
 
 // join binds one variable to another: that to which fewer lead, so that ways stay short.
@@ -123,6 +145,9 @@ type step struct {
 
 // anyInLoop: is there a compound within itself? If there is one, it is in what one of these variables is bound to.
 func anyInLoop(suspects []*Variable) bool {
+	if len(suspects) == 0 {
+		return false
+	}
 	met := map[*Compound]int{}
 	for _, v := range suspects {
 		if c, is := Deref(v).(*Compound); is && met[c] != left && leadsIntoLoop(c, met) {

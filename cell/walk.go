@@ -170,13 +170,22 @@ func Written(v Value) api.Term {
 
 // Read is a term with new variables in the place of its own. It is of what is known to be a term.
 func (s *Store) Read(t api.Term) Value {
+	return s.ReadAll(t)[0]
+}
+
+// ReadAll is Read of some terms that have variables in common.
+func (s *Store) ReadAll(list ...api.Term) []Value {
 	given := map[int64]*Variable{}
-	return read(t, func(n int64) Value {
-		if given[n] == nil {
-			given[n] = s.Variable()
-		}
-		return given[n]
-	})
+	values := make([]Value, len(list))
+	for k, t := range list {
+		values[k] = read(t, func(n int64) Value {
+			if given[n] == nil {
+				given[n] = s.Variable()
+			}
+			return given[n]
+		})
+	}
+	return values
 }
 
 // reading: a compound that is gone through, and what its first Args became.

@@ -25,6 +25,11 @@ func Compare(a, b api.Term) (int, api.Errno) {
 	return order(a, b), api.OK
 }
 
+// Order is Compare of what are known to be terms.
+func Order(a, b api.Term) int {
+	return order(a, b)
+}
+
 // Measure: P3.
 func Measure(t api.Term) (size, depth int, err api.Errno) {
 	if err = Check(t); err != api.OK {

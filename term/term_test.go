@@ -77,6 +77,9 @@ func TestCompareIsAnOrder(t *testing.T) {
 			if err != api.OK || (got == 0) != same(l[k], l[m]) {
 				t.Fatalf("%s, %s: %d, %v", show(l[k]), show(l[m]), got, err)
 			}
+			if term.Order(l[k], l[m]) != got {
+				t.Fatalf("%s, %s: the order is another", show(l[k]), show(l[m]))
+			}
 			rank[[2]int{k, m}] = got
 		}
 	}
