@@ -193,6 +193,17 @@ func TestWalks(t *testing.T) {
 			if len(names) > 0 && Same(one, twin) {
 				t.Fatalf("round %d: %s is the same as its copy", round, show(written))
 			}
+			for n, given := range w.given {
+				free, is := Deref(given).(*Variable)
+				if !is {
+					continue
+				}
+				both, _ := term.Vars(Written(one))
+				with, _ := term.Vars(Written(Made("with", one, free)))
+				if IsWithin(free, one) != (len(both) == len(with)) {
+					t.Fatalf("round %d: the variable %d is within %s: %v", round, n, show(written), IsWithin(free, one))
+				}
+			}
 			for _, other := range append(l[k:], twin) {
 				both := Written(Made("both", one, other))
 				order, unclear := Compare(one, other)
@@ -202,6 +213,53 @@ func TestWalks(t *testing.T) {
 				}
 			}
 		}
+	}
+}
+
+// TestWithin: of great terms too, also of those whose parts stand in them over and over.
+func TestWithin(t *testing.T) {
+	s := &Store{}
+	v, other, alone, bound := s.Variable(), s.Variable(), s.Variable(), s.Variable()
+	for _, x := range []struct {
+		t    Value
+		want bool
+	}{{v, true}, {other, false}, {Atom("a"), false}, {Number(0), false}, {Made("f", v), true}, {Made("f", Atom("a"), other), false}, {bound, false}} {
+		if IsWithin(v, x.t) != x.want {
+			t.Error(show(Written(x.t)), !x.want)
+		}
+	}
+	s.Bind(bound, Made("f", Made("g", v)))
+	if !IsWithin(v, bound) || !IsWithin(v, Made("f", bound)) || IsWithin(other, bound) || IsWithin(alone, bound) {
+		t.Error("what a variable is bound to")
+	}
+	var long, twice, without, deep Value = v, v, other, Made("f", Atom("a"), v)
+	for range 20000 {
+		long, twice, without, deep = Made("f", Atom("a"), long), Made("f", twice, twice), Made("f", without, without), Made("f", deep, other)
+	}
+	for k, x := range []Value{long, twice, deep} {
+		if !IsWithin(v, x) || IsWithin(alone, x) {
+			t.Error(k)
+		}
+	}
+	if IsWithin(v, without) {
+		t.Error("without it")
+	}
+}
+
+// TestBind: what is bound is undone, if it is older than the mark.
+func TestBind(t *testing.T) {
+	s := &Store{}
+	old := s.Variable()
+	s.Mark()
+	young := s.Variable()
+	s.Bind(old, Made("f", young))
+	s.Bind(young, Atom("a"))
+	if got := show(Written(old)); got != show(c("f", a("a"))) || len(s.trail) != 1 {
+		t.Error(got, len(s.trail))
+	}
+	s.Back()
+	if Deref(old) != old {
+		t.Error("it is still bound")
 	}
 }
 

@@ -65,8 +65,9 @@ func (s *Store) Try(x, y Value) bool {
 	return is
 }
 
-// bind: what is younger than the newest mark is not there any more when one goes back to it.
-func (s *Store) bind(v *Variable, to Value) {
+// Bind makes a free variable stand for another term, which it is not within.
+// What is younger than the newest mark is not there any more when one goes back to it.
+func (s *Store) Bind(v *Variable, to Value) {
 	v.to = to
 	if len(s.marks) > 0 && v.born < s.marks[len(s.marks)-1].clock {
 		s.trail = append(s.trail, v)

@@ -80,7 +80,7 @@ func (s *Store) assign(v *Variable, to Value, u *union) bool {
 		if v.inside && !x.fixed {
 			found, ended := false, false
 			if s.later == nil {
-				found, ended = isWithin(v, x)
+				found, ended = lookWithin(v, x)
 			}
 			if found {
 				return false
@@ -90,7 +90,7 @@ func (s *Store) assign(v *Variable, to Value, u *union) bool {
 			}
 		}
 	}
-	s.bind(v, to)
+	s.Bind(v, to)
 	return true
 }
 
@@ -103,11 +103,25 @@ func (s *Store) join(v, w *Variable) {
 		w.rank++
 	}
 	w.inside = w.inside || v.inside
-	s.bind(v, w)
+	s.Bind(v, w)
 }
 
-// isWithin: is a variable found in a compound? It is not ended if there is too much to go through.
-func isWithin(v *Variable, c *Compound) (found, ended bool) {
+// IsWithin: is a free variable among the parts of a term?
+func IsWithin(v *Variable, t Value) bool {
+	t = Deref(t)
+	c, is := t.(*Compound)
+	switch {
+	case !is:
+		return t == v
+	case !v.inside || c.fixed:
+		return false
+	}
+	found, ended := lookWithin(v, c)
+	return found || !ended && hasFree(c, func(x *Variable) bool { return x == v })
+}
+
+// lookWithin: is a variable found in a compound? It is not ended if there is too much to go through.
+func lookWithin(v *Variable, c *Compound) (found, ended bool) {
 	work := []*Compound{c}
 	for met := 0; len(work) > 0; met++ {
 		if met == enough {

@@ -39,17 +39,22 @@ func Same(x, y Value) bool {
 
 // IsGround: is there no free variable in a term?
 func IsGround(v Value) bool {
-	free := 0
+	return !hasFree(v, func(*Variable) bool { return true })
+}
+
+// hasFree: is there a free variable in a term that is such a one?
+func hasFree(v Value, such func(x *Variable) bool) bool {
+	found := false
 	Fold(v, func(v Value) (struct{}, bool) {
-		if _, is := v.(*Variable); is {
-			free++
+		if x, is := v.(*Variable); is {
+			found = found || such(x)
 		}
 		c, is := v.(*Compound)
-		return struct{}{}, is && !c.fixed && free == 0
+		return struct{}{}, is && !c.fixed && !found
 	}, func(*Compound, []struct{}) struct{} {
 		return struct{}{}
 	})
-	return free == 0
+	return found
 }
 
 // folding: a compound that is gone through, and what came of its first Args.
